@@ -147,8 +147,8 @@ func TestNil(t *testing.T) {
 	}
 }
 
-// part is that of a text, as the chapter tells it.
-func part(d api.Value, parts int64) int64 {
+// partOf is that of a text, as the chapter tells it.
+func partOf(d api.Value, parts int64) int64 {
 	k, _ := key.Append(nil, d)
 	h := uint64(2166136261)
 	for _, c := range k {
@@ -202,7 +202,7 @@ func TestRowsAreAMultiset(t *testing.T) {
 			if s.Space != "" && r.Intn(2) == 0 {
 				v = []api.Value{text(string(byte('a' + r.Intn(6))))}
 				within = func(l []api.Value) bool {
-					return span.Has(sp, l[time].Int) && part(l[0], s.Parts) == part(v[0], s.Parts)
+					return span.Has(sp, l[time].Int) && partOf(l[0], s.Parts) == partOf(v[0], s.Parts)
 				}
 			}
 			switch r.Intn(12) {
@@ -276,7 +276,7 @@ func TestRowsAreAMultiset(t *testing.T) {
 				for _, l := range want {
 					p := int64(0)
 					if s.Space != "" {
-						p = part(l[0], s.Parts)
+						p = partOf(l[0], s.Parts)
 					}
 					counts[[2]int64{end(l) - s.Every, p}]++
 				}
@@ -339,7 +339,7 @@ func TestInTheBase(t *testing.T) {
 	k := func(l ...api.Value) string { b, _ := key.Append(nil, l...); return string(b) }
 	n := func(i int64) string { b, _ := row.Put([]uint8{api.Int}, []api.Value{num(i)}); return string(b) }
 	bytes := func(l []api.Value) string { b, _ := row.Put(types, l); return string(b) }
-	p := num(part(text("x"), 3))
+	p := num(partOf(text("x"), 3))
 	look := func(want map[string]string) {
 		t.Helper()
 		l, _ := b.Range(nil, nil)

@@ -8,6 +8,7 @@ import (
 	"tideline/base"
 	"tideline/fault"
 	"tideline/key"
+	"tideline/part"
 	"tideline/row"
 	"tideline/segment"
 	"tideline/span"
@@ -137,15 +138,7 @@ func (x *table) part(v api.Value) (int64, bool) {
 	if x.space < 0 {
 		return 0, true
 	}
-	b, code := key.Append(nil, v)
-	if code != api.OK {
-		return 0, false
-	}
-	h := uint32(2166136261)
-	for _, c := range b {
-		h = (h ^ uint32(c)) * 16777619
-	}
-	return int64(h) % x.t.Parts, true
+	return part.Of(v, x.t.Parts)
 }
 
 // place is a row's.
@@ -156,8 +149,8 @@ func (x *table) place(l []api.Value) place {
 	if x.space >= 0 {
 		v = l[x.space]
 	}
-	part, _ := x.part(v)
-	return place{start, part}
+	p, _ := x.part(v)
+	return place{start, p}
 }
 
 // sound throws what is no row of a place.
