@@ -241,3 +241,14 @@ func TestNothingIsShared(t *testing.T) {
 	add(t, c, viewK)
 	is(t, "told", told(d), was)
 }
+
+func TestDefinitionsOfAsManyBytesAsMayBe(t *testing.T) {
+	sql := func(n int) string {
+		s := "CREATE VIEW u AS SELECT bucket(10, time) AS time FROM t WHERE d = '' GROUP BY bucket(10, time)"
+		return strings.Replace(s, "''", "'"+strings.Repeat("n", n-len(s))+"'", 1)
+	}
+	c := filled(t)
+	is(t, "Add", []any{add(t, c, sql(api.MaxDef+1)), add(t, c, sql(api.MaxDef))}, []any{api.ErrLong, api.OK})
+	is(t, "Def", len(c.Def("u")), api.MaxDef)
+	is(t, "Add", add(t, c, "CREATE TABLE w (a INT) TIME a EVERY 1 SPACE a INTO 1"), api.OK)
+}

@@ -164,3 +164,20 @@ func TestBounds(t *testing.T) {
 		}
 	}
 }
+
+func TestAsManyAsMayBe(t *testing.T) {
+	for kind := api.Bool; kind <= api.Text; kind++ {
+		r := rand.New(rand.NewSource(1))
+		l := make([]api.Value, api.MaxRows)
+		for i := range l {
+			l[i] = random(r, kind)
+		}
+		b, code := Put(kind, l)
+		if code != api.OK {
+			t.Fatal(code)
+		}
+		if g, code := Get(kind, b, len(l)); code != api.OK || !slices.Equal(g, l) {
+			t.Errorf("%d: %d", kind, code)
+		}
+	}
+}

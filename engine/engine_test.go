@@ -241,3 +241,70 @@ func TestPower(t *testing.T) {
 		}
 	}
 }
+
+// Without power each call says so, and the clock stays.
+func TestCallsWithoutPower(t *testing.T) {
+	done := map[string]int{}
+	for fuse := range 24 {
+		d, x := fresh(t, 64, tableT, viewH, rows, "CREATE JOB i COMPRESS t AFTER 1 EVERY 7", jobJ)
+		x.Tick(5)
+		was := state(t, x)
+		d.Fuse(fuse)
+		if code := x.Tick(9); code == api.ErrDead {
+			is(t, "Tick", []any{x.Clock(), x.Dead()}, []any{5, true})
+			done["tick"]++
+			d.Restart(nil)
+			is(t, "State", state(t, open(t, d)), was)
+			continue
+		}
+		is(t, "Clock", x.Clock(), 9)
+		was = state(t, x)
+		d.Fuse(fuse - 4)
+		r, code := x.Exec("DELETE FROM t WHERE time = 3")
+		if code == api.ErrDead {
+			is(t, "Exec", r, api.Result{})
+			done["exec"]++
+			d.Restart(nil)
+			is(t, "State", state(t, open(t, d)), was)
+			continue
+		}
+		is(t, "Exec", []any{r.Count, code}, []any{1, api.OK})
+		d.Fuse(fuse - 8)
+		l, code := x.Run()
+		done[fmt.Sprintf("run %d %d", len(l), int(code))]++
+		if code == api.ErrDead {
+			d.Restart(nil)
+			s, _ := open(t, d).State()
+			is(t, "Next of the first one", s.Jobs[0].Next, []int64{0, 16}[len(l)])
+		}
+	}
+	for _, k := range []string{"tick", "exec", "run 0 9", "run 1 9", "run 2 0"} {
+		if done[k] == 0 {
+			t.Errorf("%s is never met: %v", k, done)
+		}
+	}
+	d, x := fresh(t, 64)
+	is(t, "Tick", x.Tick(0), api.OK)
+	is(t, "Clock", open(t, d).Clock(), 0)
+}
+
+// A tick that does not fit is not done.
+func TestFullTick(t *testing.T) {
+	full := 0
+	for n := range 40 {
+		_, x := fresh(t, 8, "CREATE TABLE t (time INT, d TEXT) TIME time EVERY 10")
+		for code := api.OK; code == api.OK; {
+			_, code = x.Exec(fmt.Sprintf("INSERT INTO t VALUES (5, '%s')", strings.Repeat("a", 20+n)))
+		}
+		was := state(t, x)
+		if code := x.Tick(api.MaxTime); code == api.ErrFull {
+			full++
+			is(t, "it stands", []any{state(t, x), x.Clock()}, []any{was, 0})
+		} else {
+			is(t, "Tick", []any{code, x.Clock()}, []any{api.OK, api.MaxTime})
+		}
+	}
+	if full == 0 {
+		t.Error("it is never full")
+	}
+}

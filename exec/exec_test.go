@@ -330,3 +330,18 @@ func TestAnswersAreThoseOverAllRows(t *testing.T) {
 		}
 	}
 }
+
+// What is wrong with a statement is told, whether there are rows or not, and ahead of what goes wrong with rows.
+func TestWithoutRows(t *testing.T) {
+	x := fresh(t, tableT, viewH, jobJ)
+	x.script(
+		"DELETE FROM t WHERE v", "40", "DELETE FROM t WHERE x = 1", "41", "DELETE FROM t WHERE 1 / 0 = 1", "0", "UPDATE t SET v = 1 WHERE 'a'", "40", "UPDATE t SET v = TRUE", "40",
+		"SELECT 1 + 'a' FROM x", "41", "SELECT 1 + 'a' FROM j", "41", "SELECT 1 + 'a' FROM t", "40",
+		"INSERT INTO t VALUES (1, 9223372036854775807), (2, 1)", "2",
+		"SELECT * FROM h", "43", "SELECT x FROM h", "41", "SELECT s FROM h WHERE s", "40",
+		"INSERT INTO t VALUES (4611686018427387903, 1), (- 4611686018427387903 - 1, 1)", "2",
+		"CALL compress(t, NULL)", "0",
+		"CALL drop_chunks(t, 4611686018427387903)", "3",
+		"CALL drop_chunks(t, NULL)", "1",
+	)
+}

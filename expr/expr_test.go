@@ -213,3 +213,34 @@ func TestDeepOnes(t *testing.T) {
 		t.Errorf("%d, %d", k, code)
 	}
 }
+
+func TestComparisons(t *testing.T) {
+	rows := [][]api.Value{{num(-3), num(0), num(7)}, {text(""), text("a"), text("ab")}, {truth(false), truth(true)}}
+	for _, l := range rows {
+		for i := range l {
+			for k := range l {
+				for o, want := range map[uint8]bool{api.OpEq: i == k, api.OpNe: i != k, api.OpLt: i < k, api.OpLe: i <= k, api.OpGt: i > k, api.OpGe: i >= k} {
+					if v, code := Eval(on(o, l[i], l[k]), nil, nil); v != truth(want) || code != api.OK {
+						t.Errorf("%d of %v, %v: %v, %d", o, l[i], l[k], v, code)
+					}
+				}
+			}
+		}
+	}
+}
+
+func TestAggregatesHaveNoWorth(t *testing.T) {
+	for o := api.OpCountAll; o <= api.OpLast; o++ {
+		for n := range 4 {
+			want := api.ErrForm
+			if n == map[uint8]int{api.OpCountAll: 0, api.OpFirst: 2, api.OpLast: 2, api.OpCount: 1, api.OpSum: 1, api.OpMin: 1, api.OpMax: 1, api.OpAvg: 1}[o] {
+				want = api.ErrGroup
+			}
+			e := on(o, make([]api.Value, n)...)
+			_, code1 := Type(e, nil)
+			if _, code2 := Eval(e, nil, nil); code1 != want || code2 != want {
+				t.Errorf("%d of %d: %d, %d", o, n, code1, code2)
+			}
+		}
+	}
+}

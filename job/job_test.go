@@ -12,6 +12,7 @@ import (
 	"tideline/catalog"
 	"tideline/disk"
 	"tideline/exec"
+	"tideline/key"
 	"tideline/parse"
 	"tideline/print"
 	"tideline/value"
@@ -159,6 +160,9 @@ func TestWhatGoesWrong(t *testing.T) {
 		x.d.Fuse(fuse)
 		r, code := Run(x.b, x.c, "j", 20)
 		if code == api.OK {
+			x.d.Restart(nil)
+			x.b, _ = base.Open(x.d)
+			is(t, "it lasts", []any{fuse > 1, r, x.due(29)}, []any{true, api.Ran{Name: "j", Count: 2}, "[]"})
 			break
 		}
 		is(t, "Run", []any{r, code}, []any{api.Ran{}, api.ErrDead})
@@ -185,4 +189,21 @@ func TestNoRoom(t *testing.T) {
 	was := x.image()
 	r, code := Run(x.b, x.c, "j", 9000)
 	is(t, "Run", []any{r, code, x.image() == was, x.due(9000)}, []any{api.Ran{Name: "j", Code: api.ErrFull}, api.OK, true, "[j]"})
+}
+
+// What a statement did ahead of going wrong is not there; only the job's Next is.
+func TestOnlyNextIsCommitted(t *testing.T) {
+	x := fresh(t, 100, tableT, viewH, jobJ, rows, "CALL refresh(h, NULL, NULL)", "INSERT INTO t VALUES (3, 9223372036854775807)")
+	_, code := x.b.Delete(nextKey("j"))
+	was := x.image()
+	x.b.Abort()
+	r, code2 := Run(x.b, x.c, "j", 20)
+	is(t, "Run", []any{r, code, code2, x.due(29), x.due(30)}, []any{api.Ran{Name: "j", Code: api.ErrOver}, api.OK, api.OK, "[]", "[j]"})
+	x.b.Delete(nextKey("j"))
+	is(t, "the base", x.image(), was)
+}
+
+func nextKey(name string) []byte {
+	b, _ := key.Append(nil, api.Value{Kind: api.Int, Int: 10}, api.Value{Kind: api.Text, Text: name})
+	return b
 }

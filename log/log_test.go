@@ -285,3 +285,13 @@ func TestPower(t *testing.T) {
 		}
 	}
 }
+
+func TestSizes(t *testing.T) {
+	for _, n := range []int{0, 1, 4063, 4064, 4065, 4066, 8127, 8128, 8129, 12191, 12192} {
+		d := fresh(t, 4)
+		l := open(t, d, 0, 4)
+		is(t, "Commit", l.Commit(data(n, 5)), api.OK)
+		is(t, "Room", l.Room(), 12192-4064*max(1, (n+4063)/4064))
+		is(t, "Batches", told(open(t, d, 0, 4).Batches()), told([][]byte{data(n, 5)}))
+	}
+}

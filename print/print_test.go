@@ -44,6 +44,10 @@ func TestPrint(t *testing.T) {
 		{"insert into t values(1,'('),(-1,',')", "INSERT INTO t VALUES (1, '('), (- 1, ',')"},
 		{"update t set a=1,b=(a=b)where a is null", "UPDATE t SET a = 1, b = a = b WHERE a IS NULL"},
 		{"delete from t where a", "DELETE FROM t WHERE a"},
+		{"select a from t limit 0", "SELECT a FROM t LIMIT 0"},
+		{"create table t(a int)time a every 0 space a into 0", "CREATE TABLE t (a INT) TIME a EVERY 0 SPACE a INTO 0"},
+		{"create job j refresh v from 0 to 0 every 0", "CREATE JOB j REFRESH v FROM 0 TO 0 EVERY 0"},
+		{"create job j compress v after 0 every 0", "CREATE JOB j COMPRESS v AFTER 0 EVERY 0"},
 		{"delete from t", "DELETE FROM t"},
 	} {
 		s, _, code := parse.Parse(x[0])
@@ -131,6 +135,8 @@ func spoilt() map[string]func(s *api.Stmt) {
 		"rows":       func(s *api.Stmt) { s.Rows = append(s.Rows, nil) },
 		"many rows":  func(s *api.Stmt) { s.Rows = make([][]api.Expr, 65) },
 		"sets":       func(s *api.Stmt) { s.Sets = append(s.Sets, api.Set{}) },
+		"set's name": func(s *api.Stmt) { s.Sets = append(s.Sets, api.Set{Name: "?", E: a}) },
+		"set":        func(s *api.Stmt) { s.Sets = append(s.Sets, api.Set{Name: "a"}) },
 		"where":      func(s *api.Stmt) { s.Where = []api.Expr{a, a} },
 		"to":         func(s *api.Stmt) { s.To = num(-1 << 63) },
 		"to text":    func(s *api.Stmt) { s.To = text("a") },

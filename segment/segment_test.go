@@ -171,3 +171,33 @@ func TestPiecesShareNothing(t *testing.T) {
 		t.Error("pieces share their room")
 	}
 }
+
+func TestPiecesEndWhereTheBytesDo(t *testing.T) {
+	exact := 0
+	for n := range 1100 {
+		p, _ := Make([]uint8{api.Text}, [][]api.Value{{text(strings.Repeat("a", n))}})
+		last := len(p[len(p)-1])
+		if last == 0 || last > 1000 {
+			t.Fatalf("%d bytes in the last piece", last)
+		}
+		if last == 1000 {
+			exact++
+		}
+		if rows, code := Open([]uint8{api.Text}, p); code != api.OK || len(rows) != 1 {
+			t.Fatalf("Open: %d", code)
+		}
+	}
+	if exact == 0 {
+		t.Error("no last piece is full")
+	}
+}
+
+func TestAsManyRowsAsMayBe(t *testing.T) {
+	p, code := Make(nil, make([][]api.Value, api.MaxRows))
+	if code != api.OK {
+		t.Fatal(code)
+	}
+	if rows, code := Open(nil, p); code != api.OK || len(rows) != api.MaxRows {
+		t.Errorf("%d rows, %d", len(rows), code)
+	}
+}

@@ -244,3 +244,22 @@ func TestFresh(t *testing.T) {
 		}
 	}
 }
+
+func TestEnds(t *testing.T) {
+	v := View{"v", 1}
+	_, b := fresh(t)
+	const low, high = api.MinTime - api.MaxEvery, api.MaxTime + api.MaxEvery
+	for _, x := range []struct {
+		s    api.Span
+		code api.Errno
+	}{
+		{api.Span{From: low, To: 5}, api.OK}, {api.Span{From: low - 1, To: 5}, api.ErrRange}, {api.Span{From: 5, To: high}, api.OK}, {api.Span{From: 5, To: high + 1}, api.ErrRange},
+	} {
+		is(t, "Cover", Cover(b, "t", v, x.s), x.code)
+	}
+	_, b = fresh(t)
+	Cover(b, "t", View{"v", 10}, api.Span{From: 0, To: 20})
+	is(t, "Note", Note(b, "t", []int64{20, 19, 21}), api.OK)
+	log, _ := Log(b, "t")
+	is(t, "what is below the threshold", log, list(19, 20))
+}

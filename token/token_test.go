@@ -36,6 +36,7 @@ func TestLex(t *testing.T) {
 		{"''a''", []api.Token{x("", 0), w("a", 2), x("", 3), e(5)}},
 		{"'a\nB\x00--\xff'", []api.Token{x("a\nB\x00--\xff", 0), e(9)}},
 		{"_Az_09", []api.Token{w("_az_09", 0), e(6)}},
+		{"ABCXYZ abcxyz aZzA", []api.Token{w("abcxyz", 0), w("abcxyz", 7), w("azza", 14), e(18)}},
 		{name, []api.Token{w(name, 0), e(32)}},
 		{"1'a'b", []api.Token{n(1, 0), x("a", 1), w("b", 4), e(5)}},
 	} {
@@ -94,7 +95,7 @@ func TestReservedName(t *testing.T) {
 			t.Errorf("%s", s)
 		}
 	}
-	for _, s := range []string{"", "1a", "A", "aB", "a-b", "a b", "ä", "a\x00", strings.Repeat("n", 33)} {
+	for _, s := range []string{"", "1a", "A", "aB", "Z", "aZ", "a-b", "a b", "ä", "a\x00", strings.Repeat("n", 33)} {
 		if Reserved(s) || Name(s) {
 			t.Errorf("%s", s)
 		}
