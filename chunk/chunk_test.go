@@ -455,3 +455,35 @@ func TestNoPower(t *testing.T) {
 	}
 	is(t, "Put", code, api.ErrFull)
 }
+
+func TestTheEndsOfTimes(t *testing.T) {
+	_, b := fresh(t, 100)
+	s := plain(t)
+	for _, n := range []int64{api.MinTime, api.MaxTime} {
+		is(t, "Put", Put(b, s, []api.Value{num(n), num(1)}), api.OK)
+	}
+	want := "-4611686018427387904, 1; 4611686018427387903, 1"
+	is(t, "Rows", rows(t, b, s, math.MinInt64, math.MaxInt64), want)
+	is(t, "Rows", rows(t, b, s, api.MaxTime, api.MaxTime+1), "4611686018427387903, 1")
+	is(t, "Pack", Pack(b, s, api.MaxTime+api.MaxEvery), api.OK)
+	is(t, "Rows", rows(t, b, s, math.MinInt64, math.MaxInt64), want)
+	is(t, "Chunks", chunks(t, b, s), "[{-4611686018427387910 0 true 1} {4611686018427387900 0 true 1}]")
+	n, code := Drop(b, s, math.MaxInt64)
+	is(t, "Drop", []any{n, code}, []any{2, api.OK})
+}
+
+func TestOfSeveralErrorsTheLeast(t *testing.T) {
+	_, b := fresh(t, 100)
+	s := plain(t)
+	for i := range int64(3) {
+		Put(b, s, []api.Value{num(i), num(i)})
+	}
+	wrong := [][]api.Value{{text("a"), num(1)}, {{}, num(1)}, {num(1)}} // 40, 45, 1
+	for _, x := range []struct {
+		order [3]int
+		want  api.Errno
+	}{{[3]int{0, 1, 0}, api.ErrType}, {[3]int{1, 0, 1}, api.ErrType}, {[3]int{0, 2, 1}, api.ErrArg}, {[3]int{1, 1, 1}, api.ErrNull}} {
+		_, _, code := Change(b, s, all(), nil, func(l []api.Value) ([]api.Value, bool) { return wrong[x.order[l[0].Int]], true })
+		is(t, "Change", code, x.want)
+	}
+}

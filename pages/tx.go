@@ -55,19 +55,18 @@ func (t *Tx) Write(p int, b []byte) api.Errno {
 	}
 	// What Mark has not told since need not be come back to: one step back is enough for several writes.
 	if i, ok := t.since[p]; !ok || i < t.told[len(t.told)-1] {
-		t.record(p, func() {})
+		t.record(p)
 	}
 	t.changed[p] = bytes.Clone(b)
 	return api.OK
 }
 
-// record keeps how a page stands, and what else takes back what is done now.
-func (t *Tx) record(p int, undo func()) {
+// record keeps how a page stands, as a step of undo.
+func (t *Tx) record(p int) {
 	b, changed := t.changed[p]
 	i, known := t.since[p]
 	taken := t.taken[p]
 	t.undo = append(t.undo, func() {
-		undo()
 		t.taken[p] = taken
 		delete(t.changed, p)
 		delete(t.since, p)
@@ -87,7 +86,7 @@ func (t *Tx) Alloc() (int, api.Errno) {
 		return 0, code
 	}
 	for p := range t.free() {
-		t.record(p, func() {})
+		t.record(p)
 		t.taken[p] = true
 		t.changed[p] = make([]byte, api.Page)
 		return p, api.OK
@@ -103,7 +102,7 @@ func (t *Tx) Free(p int) api.Errno {
 	if !t.has(p) || p == t.root {
 		return api.ErrArg
 	}
-	t.record(p, func() {})
+	t.record(p)
 	t.taken[p] = false
 	delete(t.changed, p)
 	return api.OK

@@ -287,3 +287,26 @@ func TestOtherPages(t *testing.T) {
 		Delete(x, []byte("b"))
 	}
 }
+
+// A Put that needs two pages, of which one is there, takes none.
+func TestOnePageTooFew(t *testing.T) {
+	x := begin(t, 8)
+	value := bytes.Repeat([]byte("v"), 1000)
+	n := 0
+	code := api.OK
+	for code == api.OK {
+		code = Put(x, fmt.Appendf(nil, "%d", n), value)
+		if code == api.OK {
+			n++
+		}
+	}
+	is(t, "Put", []any{code, x.Left(), x.Root()}, []any{api.ErrFull, 1, 1})
+	l, code := Range(x, nil, nil)
+	is(t, "Range", []any{len(l), code}, []any{n, api.OK})
+	is(t, "Put", []any{Put(x, []byte("0"), value[1:]), Put(x, []byte("00"), value)}, []any{api.OK, api.ErrFull})
+	for i := range n {
+		ok, code := Delete(x, fmt.Appendf(nil, "%d", i))
+		is(t, "Delete", []any{ok, code}, []any{true, api.OK})
+	}
+	is(t, "all is free", []any{x.Left(), x.Root()}, []any{2, 0})
+}
