@@ -355,3 +355,35 @@ func TestPacking(t *testing.T) {
 		is(t, "State", again, s)
 	}
 }
+
+// What goes wrong is told alike, with the same one of several errors.
+func TestErrorsAreTheModels(t *testing.T) {
+	long, name := strings.Repeat("a", 65), strings.Repeat("a", 64)
+	p := newPair(t, 400)
+	both := func(want string, l ...string) {
+		t.Helper()
+		for _, sql := range l {
+			got := told(p.x.Exec(sql))
+			is(t, sql, []any{got, told(p.m.Exec(sql))}, []any{want, want})
+			p.same(sql)
+		}
+	}
+	both("0", "CREATE TABLE t (time INT, d TEXT, b BOOL, v INT) TIME time EVERY 10 SPACE d INTO 3", "CREATE VIEW h AS SELECT bucket(10, time) AS time, sum(v) AS s FROM t GROUP BY bucket(10, time)", "CREATE JOB j REFRESH h FROM 9 TO 1 EVERY 5")
+	both("40", "DELETE FROM t WHERE v", "UPDATE t SET v = 1 WHERE d", "UPDATE t SET v = d")
+	both("0", "DELETE FROM t WHERE 1 / 0 = 1", "UPDATE t SET v = 1 / 0", "SELECT 1 / 0 FROM t", "SELECT * FROM h WHERE 1 / s = 1")
+	both("3", "INSERT INTO t VALUES (1, 'a', TRUE, 0), (2, '"+name+"', FALSE, 9223372036854775807), (3, NULL, NULL, NULL)")
+	both("41", "DROP TABLE x", "DROP VIEW t", "DROP JOB h", "INSERT INTO x VALUES (1)", "INSERT INTO h VALUES (1, 1)", "UPDATE x SET v = 1", "UPDATE t SET x = 1", "UPDATE t SET v = x, v = 1", "UPDATE t SET v = 1 WHERE x", "DELETE FROM h", "SELECT * FROM x", "SELECT * FROM j", "SELECT 1 + 'a' FROM j", "SELECT x FROM h", "CALL refresh(t, NULL, NULL)", "CALL refresh(x, 4611686018427387904, NULL)", "CALL compress(h, NULL)", "CALL decompress(x, NULL)", "CALL drop_chunks(j, NULL)", "INSERT INTO t VALUES (time, 'a', TRUE, 1)")
+	both("5", "CREATE TABLE t (time INT) TIME time EVERY 10", "UPDATE t SET v = 1, v = x", "UPDATE t SET v = 1, v = 1 WHERE x")
+	both("6", "DROP TABLE t", "DROP VIEW h")
+	both("1", "INSERT INTO t VALUES (1)", "INSERT INTO t VALUES (1 / 0, 'a', TRUE, 1), (1)", "INSERT INTO t VALUES (1, 'a', TRUE, 1, 1)")
+	both("40", "INSERT INTO t VALUES (1, 'a', 1, 1)", "INSERT INTO t VALUES (1, 1, TRUE, 1), (1)", "UPDATE t SET v = 'a' WHERE x", "SELECT v FROM t WHERE v", "DELETE FROM t WHERE d")
+	both("42", "UPDATE t SET v = sum(v)", "DELETE FROM t WHERE count(*) = 1", "SELECT v, count(*) FROM t")
+	both("44", "INSERT INTO t VALUES (NULL, 'a', TRUE, 1), (1, 'a', TRUE, 1 / 0)", "UPDATE t SET v = v + 1 WHERE 1 / v = 0", "UPDATE t SET time = v, v = 1 / v", "UPDATE t SET v = 1 / v WHERE v = 0", "DELETE FROM t WHERE 1 / v = 1", "SELECT 1 / v FROM t")
+	both("43", "INSERT INTO t VALUES (1, 'a', TRUE, 9223372036854775807 + 1), (1, 'a', TRUE, 1 / 0)", "UPDATE t SET v = 1 WHERE 1 / v = v + 1", "UPDATE t SET v = 1 / v, time = v + 1", "SELECT v + 1 FROM ONLY t")
+	both("2", "INSERT INTO t VALUES (NULL, '"+long+"', TRUE, 1)", "UPDATE t SET d = '"+long+"', time = v")
+	both("45", "INSERT INTO t VALUES (NULL, 'a', TRUE, 1), (1, '"+long+"', TRUE, 1)", "UPDATE t SET time = NULL", "UPDATE t SET time = v WHERE v IS NULL")
+	both("7", "UPDATE t SET time = v", "INSERT INTO t VALUES (4611686018427387904, 'a', TRUE, 1)", "CALL refresh(h, 4611686018427387904, NULL)", "CALL refresh(h, NULL, -4611686018427387905)", "CALL compress(t, 4611686018427387904)", "CALL drop_chunks(t, -4611686018427387905)")
+	both("1", "INSERT INTO t VALUES (4, NULL, NULL, 1)")
+	both("43", "SELECT * FROM h", "CALL refresh(h, NULL, NULL)")
+	both("0", "SELECT * FROM h WHERE time > 5", "CALL refresh(h, 10, NULL)", "DROP JOB j", "DROP VIEW h", "DROP TABLE t", "CREATE TABLE t (time INT) TIME time EVERY 7", "SELECT * FROM t")
+}
