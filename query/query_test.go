@@ -103,7 +103,12 @@ func TestErrors(t *testing.T) {
 		{"select d + 1 from t where x order by y", api.ErrName}, {"select sum(d) from t where v group by x", api.ErrType}, {"select sum(d) from t group by x having v", api.ErrName}, {"select sum(d) from t having x", api.ErrType}, {"select v from t group by v having 1 order by x", api.ErrType},
 		{"select * from t where x group by d", api.ErrName}, {"select * from t group by d having x", api.ErrGroup}, {"select d from t group by d having sum(d) = 1 order by time", api.ErrType},
 		// arguments ahead of their own
-		{"select sum(d + 1) + time from t", api.ErrType}, {"select time + sum(x) from t", api.ErrGroup}, {"select count(*) = (time = 1) from t", api.ErrGroup}, {"select x, count(*) from t", api.ErrGroup},
+		{"select sum(d + 1) + time from t", api.ErrType}, {"select time + sum(x) from t", api.ErrGroup}, {"select count(*) = (time = 1) from t", api.ErrGroup}, {"select x, count(*) from t", api.ErrName},
+		// a column that there is not, ahead of one that is not of the group
+		{"select x from t group by 1", api.ErrName}, {"select 1 + x from t group by 1", api.ErrName}, {"select 1 from t having x", api.ErrName}, {"select 1 from t group by 1 order by x", api.ErrName}, {"select -x from t group by d", api.ErrName}, {"select bucket(0, x) from t group by d", api.ErrName},
+		{"select 1 from t group by d having d = x", api.ErrName}, {"select d from t group by d order by count(*) + x", api.ErrName}, {"select count(*) from t order by x", api.ErrName}, {"select x or first(first(y, count(*)), 1) as c from t", api.ErrName},
+		{"select time + x from t group by 1", api.ErrGroup}, {"select x + time from t group by 1", api.ErrName}, {"select sum(x) + time from t", api.ErrName}, {"select sum(v) + x from t", api.ErrName}, {"select d + 1 + x from t group by d", api.ErrType}, {"select x + (d + 1) from t group by d", api.ErrName},
+		{"select time, x from t group by 1", api.ErrGroup}, {"select x, time from t group by 1", api.ErrName}, {"select time from t having x", api.ErrGroup}, {"select 1 from t having time order by x", api.ErrGroup},
 	} {
 		q := read(t, x.sql)
 		if c, code := Check(q, columns()); code != x.code || c != nil {
@@ -141,6 +146,10 @@ func TestWrongQueries(t *testing.T) {
 		{api.Query{Items: []api.Item{{E: api.Expr{Op: api.OpFirst, Args: []api.Expr{v}}}}}, api.ErrForm},
 		{api.Query{Group: []api.Expr{v}, Items: []api.Item{{E: api.Expr{Op: 99, Args: []api.Expr{v}}}}}, api.ErrForm},
 		{api.Query{Group: []api.Expr{v}, Items: []api.Item{{E: api.Expr{Op: api.OpAdd, Args: []api.Expr{v}}}}}, api.ErrForm},
+		{api.Query{Group: []api.Expr{yes}, Items: []api.Item{{E: yes}}, Order: []api.Order{{E: api.Expr{Args: []api.Expr{{Op: api.OpCol}}}}}}, api.ErrName},
+		{api.Query{Group: []api.Expr{v}, Items: []api.Item{{E: api.Expr{Op: api.OpCol, Name: "time", Args: []api.Expr{bad}}}}}, api.ErrName},
+		{api.Query{Group: []api.Expr{v}, Items: []api.Item{{E: api.Expr{Op: api.OpCol, Name: "x", Args: []api.Expr{v}}}}}, api.ErrForm},
+		{api.Query{Group: []api.Expr{v}, Items: []api.Item{{E: api.Expr{Op: api.OpCol, Name: "time", Args: []api.Expr{v}}}}}, api.ErrForm},
 	} {
 		if r, code := Run(x.q, columns(), nil); code != x.code || code != api.OK && !reflect.DeepEqual(r, api.Result{}) {
 			t.Errorf("%d: %v, %d", i, r, code)
